@@ -270,3 +270,35 @@ func TestNilAndEmptyListsAreTheSame(t *testing.T) {
 		t.Errorf("%v %d, want %v %d", got, err, first, e)
 	}
 }
+
+// TestRun counts which operations are executed, and lets them be judged without regard to labels.
+func TestRun(t *testing.T) {
+	valid := []api.Deed{read(0, 0), write(0, 1), read(1, 1), write(1, 2), drop(0), write(0, 2)}
+	invalid := []api.Deed{{Kind: 4}, read(2, 0), write(0, 3), drop(-1)}
+	cases := []struct {
+		name  string
+		code  api.Errno
+		codes []api.Errno
+		from  []uint32
+	}{
+		{"all are OK", api.OK, []api.Errno{0, 0, 0, 0, 0, 0}, []uint32{1, 3, 7}},
+		{"none is OK", api.ErrNone, []api.Errno{5, 5, 5, 5, 5, 5}, []uint32{1, 2, 4}},
+	}
+	for _, c := range cases {
+		var executed []api.Deed
+		codes, from := Run(2, 3, slices.Concat(invalid, valid), func(d api.Deed) api.Errno {
+			executed = append(executed, d)
+			return c.code
+		})
+		want := append([]api.Errno{api.ErrKind, api.ErrArg, api.ErrArg, api.ErrArg}, c.codes...)
+		if !slices.Equal(codes, want) || !slices.Equal(from, c.from) || !slices.Equal(executed, valid) {
+			t.Errorf("%s: %v %v, executed %v, want %v %v", c.name, codes, from, executed, want, c.from)
+		}
+	}
+	for _, number := range []int{0, -1, math.MinInt} {
+		codes, from := Run(number, number, valid, func(api.Deed) api.Errno { return api.OK })
+		if !slices.Equal(codes, slices.Repeat([]api.Errno{api.ErrArg}, len(valid))) || len(from) != 0 {
+			t.Errorf("%d subjects and objects: %v %v", number, codes, from)
+		}
+	}
+}
