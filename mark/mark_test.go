@@ -273,6 +273,7 @@ func TestNilAndEmptyListsAreTheSame(t *testing.T) {
 
 // TestRun counts which operations are executed, and lets them be judged without regard to labels.
 func TestRun(t *testing.T) {
+	kinds := []int{api.BRead, api.BWrite, api.BDrop}
 	valid := []api.Deed{read(0, 0), write(0, 1), read(1, 1), write(1, 2), drop(0), write(0, 2)}
 	invalid := []api.Deed{{Kind: 4}, read(2, 0), write(0, 3), drop(-1)}
 	cases := []struct {
@@ -286,7 +287,7 @@ func TestRun(t *testing.T) {
 	}
 	for _, c := range cases {
 		var executed []api.Deed
-		codes, from := Run(2, 3, slices.Concat(invalid, valid), func(d api.Deed) api.Errno {
+		codes, from := Run(2, 3, kinds, slices.Concat(invalid, valid), func(d api.Deed) api.Errno {
 			executed = append(executed, d)
 			return c.code
 		})
@@ -296,9 +297,31 @@ func TestRun(t *testing.T) {
 		}
 	}
 	for _, number := range []int{0, -1, math.MinInt} {
-		codes, from := Run(number, number, valid, func(api.Deed) api.Errno { return api.OK })
+		codes, from := Run(number, number, kinds, valid, func(api.Deed) api.Errno { return api.OK })
 		if !slices.Equal(codes, slices.Repeat([]api.Errno{api.ErrArg}, len(valid))) || len(from) != 0 {
 			t.Errorf("%d subjects and objects: %v %v", number, codes, from)
+		}
+	}
+}
+
+// TestRunWithFewerKinds has operations of the kinds that there are not, whose numbers are valid and invalid.
+func TestRunWithFewerKinds(t *testing.T) {
+	script := []api.Deed{read(0, 0), write(0, 1), drop(0), drop(1), write(0, 1), read(0, 1), read(1, 0), write(1, 1)}
+	cases := []struct {
+		name  string
+		kinds []int
+		codes []api.Errno
+		from  []uint32
+	}{
+		{"all", []int{api.BRead, api.BWrite, api.BDrop}, []api.Errno{0, 0, 0, 2, 0, 0, 2, 2}, []uint32{1, 3}},
+		{"no new start", []int{api.BRead, api.BWrite}, []api.Errno{0, 0, 6, 6, 0, 0, 2, 2}, []uint32{1, 3}},
+		{"no write", []int{api.BRead, api.BDrop}, []api.Errno{0, 6, 0, 2, 6, 0, 2, 6}, []uint32{1, 2}},
+		{"no read", []int{api.BDrop, api.BWrite}, []api.Errno{6, 0, 0, 2, 0, 6, 6, 2}, []uint32{1, 2}},
+		{"none", nil, []api.Errno{6, 6, 6, 6, 6, 6, 6, 6}, []uint32{1, 2}},
+	}
+	for _, c := range cases {
+		if codes, from := Run(1, 2, c.kinds, script, func(api.Deed) api.Errno { return api.OK }); !slices.Equal(codes, c.codes) || !slices.Equal(from, c.from) {
+			t.Errorf("%s: %v %v, want %v %v", c.name, codes, from, c.codes, c.from)
 		}
 	}
 }
